@@ -149,9 +149,15 @@ func TestP1102Errors(t *testing.T) {
 }
 
 func TestP1102Nil(t *testing.T) {
-	var m *Msg
-	if m.PutUint(1, 1) != nil || m.PutText(1, "x") != nil || m.PutInts(1, 1) != nil || m.PutFloats(1, 1) != nil || m.PutFloats(1, 1<<40) != nil || m.PutInts(1) != nil {
-		t.Error("a nil Msg answers one")
+	nothing(t, nil)
+	nothing(t, &Msg{})
+}
+
+// nothing asks a message that is none.
+func nothing(t *testing.T, m *Msg) {
+	t.Helper()
+	if m.PutUint(1, 1) != nil || m.PutText(1, "x") != nil || m.PutInts(1, 1) != nil || m.PutFloats(1, 1) != nil || m.PutFloats(1, 1<<40) != nil || m.PutInts(1) != nil || m.PutText(1) != nil || m.PutFloats(1) != nil {
+		t.Error("a Msg that is none answers one")
 	}
 	u, isU := m.Uint(1)
 	i, isI := m.Int(1)
@@ -160,7 +166,7 @@ func TestP1102Nil(t *testing.T) {
 	ints, wrong := m.Ints(1)
 	floats, wrong2 := m.Floats(1)
 	if u != 0 || isU || i != 0 || isI || f != 0 || isF || s != "" || at != 0 || isS || len(ints) != 0 || len(floats) != 0 || wrong.Code != 0 || wrong2.Code != 0 || len(m.Texts(1)) != 0 || len(m.Nums()) != 0 {
-		t.Error("a nil Msg tells something")
+		t.Error("a Msg that is none tells something")
 	}
 	if b, code := m.Bytes(); b != "" || code != api.ErrArg {
 		t.Error(b, code)
