@@ -10,6 +10,9 @@ const (
 	beyond     = 1 << 32 // no pattern of a binary32 number is so great
 )
 
+// key names a node: its tree, and its number in it.
+type key struct{ tree, node int }
+
 // Check tells what may not be.
 func Check(e api.Ensemble) (string, bool) {
 	switch {
