@@ -3,6 +3,7 @@ package lower
 import (
 	"hornbeam/api"
 	"hornbeam/ieee"
+	"hornbeam/ops"
 	"hornbeam/tree"
 	"hornbeam/value"
 )
@@ -90,22 +91,5 @@ func isSplit(t api.Tree, kids []int) bool {
 		return false
 	}
 	a, b := t.Nodes[kids[0]].Pred, t.Nodes[kids[1]].Pred
-	return exactMode(a.Op) > 0 && b.Op == opposite(a.Op) && a.Field == b.Field && value.Same(a.Values[0], b.Values[0])
-}
-
-// opposite tells the comparison that is so just where one is not.
-func opposite(op int) int {
-	switch op {
-	case api.Less:
-		return api.GreatEq
-	case api.LessEq:
-		return api.Great
-	case api.Equal:
-		return api.NotEqual
-	case api.NotEqual:
-		return api.Equal
-	case api.GreatEq:
-		return api.Less
-	}
-	return api.LessEq
+	return ops.Mode(a.Op) > 0 && b.Op == ops.Opposite(a.Op) && a.Field == b.Field && value.Same(a.Values[0], b.Values[0])
 }

@@ -13,6 +13,7 @@ import (
 	"hornbeam/onnx"
 	"hornbeam/onnxio"
 	"hornbeam/onnxrun"
+	"hornbeam/ops"
 	"hornbeam/rat"
 	"hornbeam/value"
 )
@@ -206,7 +207,7 @@ func some(r *rand.Rand) api.Segment {
 		n := len(nodes)
 		nodes[up].Kids = []int{n + 1, n}
 		nodes[up].Default = n + r.Intn(2)
-		nodes = append(nodes, node(ask(opposite(op), field, at), fmt.Sprint(r.Intn(100)), -1), node(ask(op, field, at), fmt.Sprint(-r.Intn(100)), -1))
+		nodes = append(nodes, node(ask(ops.Opposite(op), field, at), fmt.Sprint(r.Intn(100)), -1), node(ask(op, field, at), fmt.Sprint(-r.Intn(100)), -1))
 	}
 	s.Tree.Nodes = nodes
 	return s

@@ -2,6 +2,7 @@ package pmmlout
 
 import (
 	"hornbeam/api"
+	"hornbeam/chars"
 	"hornbeam/dec"
 	"hornbeam/logic"
 	"hornbeam/model"
@@ -48,33 +49,23 @@ func preds(m api.Model) func(yield func(api.Pred) bool) {
 // isWritten tells whether all texts of a model are such as XML takes.
 func isWritten(m api.Model) bool {
 	for _, f := range m.Fields {
-		if !isText(f.Name) || !isText(f.Replace.Cat) {
+		if !chars.IsText(f.Name) || !chars.IsText(f.Replace.Cat) {
 			return false
 		}
 		for _, s := range f.Values {
-			if !isText(s) {
+			if !chars.IsText(s) {
 				return false
 			}
 		}
 	}
 	for p := range preds(m) {
 		for _, v := range p.Values {
-			if !isText(v.Cat) {
+			if !chars.IsText(v.Cat) {
 				return false
 			}
 		}
 	}
 	return true
-}
-
-func isText(s string) bool {
-	for _, r := range utf.Runes(s) {
-		if !utf.Char(r) {
-			return false
-		}
-	}
-	_, whole := utf.Check(s)
-	return whole
 }
 
 // hasEdges tells whether a category that stands alone in an attribute begins or ends with a blank.

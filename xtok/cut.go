@@ -4,6 +4,7 @@ import (
 	"strconv"
 	"strings"
 
+	"hornbeam/chars"
 	"hornbeam/utf"
 )
 
@@ -53,17 +54,9 @@ func (c *cutter) blanks() bool {
 // name goes past a name ("": there is none).
 func (c *cutter) name() string {
 	rest := c.s[c.at:]
-	end := 0
-reading:
-	for at, r := range utf.Runes(rest) {
-		if at == 0 && !utf.NameStart(r) || !utf.NamePart(r) {
-			break reading
-		}
-		char, _ := utf.Put(r)
-		end = at + len(char)
-	}
-	c.at += end
-	return rest[:end]
+	size := chars.NameSize(rest)
+	c.at += size
+	return rest[:size]
 }
 
 func (c *cutter) put(t Token) bool {
