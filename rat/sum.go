@@ -5,24 +5,25 @@ import (
 	"hornbeam/nat"
 )
 
-// Add adds.
+// Add adds. What the denominators have in common is taken out first: nothing else can be common to the whole, and numbers stay small.
 func Add(a, b Rat) Rat {
-	if nat.Cmp(a.divide, b.divide) == 0 {
-		return join(a.neg, a.num, b.neg, b.num, a.Den())
-	}
-	return join(a.neg, times(a.num, b.divide), b.neg, times(b.num, a.divide), times(a.Den(), b.divide))
+	common := nat.Gcd(a.Den(), b.Den())
+	denA, denB := over(a.Den(), common), over(b.Den(), common)
+	neg, num := join(a.neg, nat.Mul(a.num, denB), b.neg, nat.Mul(b.num, denA))
+	rest := nat.Gcd(num, common)
+	return made(neg, over(num, rest), nat.Mul(denA, over(b.Den(), rest)))
 }
 
-// join adds two numerators over one denominator.
-func join(negA bool, a nat.Nat, negB bool, b, den nat.Nat) Rat {
+// join adds two numbers, each of which is below 0 if neg; it tells the same of the sum.
+func join(negA bool, a nat.Nat, negB bool, b nat.Nat) (bool, nat.Nat) {
 	if negA == negB {
-		return lowest(negA, nat.Add(a, b), den)
+		return negA, nat.Add(a, b)
 	}
 	if less, is := nat.Sub(a, b); is {
-		return lowest(negA, less, den)
+		return negA, less
 	}
 	less, _ := nat.Sub(b, a)
-	return lowest(negB, less, den)
+	return negB, less
 }
 
 // Sub takes away.
@@ -33,14 +34,19 @@ func opposite(r Rat) Rat {
 	return r
 }
 
-// Mul multiplies.
+// Mul multiplies. A numerator may have something in common with the other one's denominator alone.
 func Mul(a, b Rat) Rat {
-	return lowest(a.neg != b.neg, nat.Mul(a.num, b.num), times(a.Den(), b.divide))
+	first, second := nat.Gcd(a.num, b.Den()), nat.Gcd(b.num, a.Den())
+	num := nat.Mul(over(a.num, first), over(b.num, second))
+	return made(a.neg != b.neg, num, nat.Mul(over(a.Den(), second), over(b.Den(), first)))
 }
 
 // Div divides.
 func Div(a, b Rat) (Rat, api.Code) {
-	return Make(a.neg != b.neg, times(a.num, b.divide), times(b.num, a.divide))
+	if b.num.Zero() {
+		return Rat{}, api.ErrZero
+	}
+	return Mul(a, made(b.neg, b.Den(), b.num)), api.OK
 }
 
 // Floor tells the greatest whole number that is not above.
