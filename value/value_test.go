@@ -20,6 +20,9 @@ func categorical(values ...string) api.Field {
 	return api.Field{Name: "c", Kind: api.Categorical, Values: values, Invalid: api.Refuse}
 }
 
+// both tells a value that is not valid: it has a number and a category.
+func both(kind int) api.Value { return api.Value{Kind: kind, Num: "-13/5", Cat: "a"} }
+
 // spoilt values are no values at all.
 func spoilt() []api.Value {
 	return []api.Value{{Kind: 3}, {Kind: -1}, {Num: "1"}, {Cat: "x"}, number(""), number("2/4"), number("1.5"), number("-0"), number("x"), number(strings.Repeat("9", 1201)), {Kind: api.Number, Num: "1", Cat: "x"}, {Kind: api.Category, Num: "1"}, Cat(strings.Repeat("x", 61))}
@@ -89,6 +92,7 @@ func TestP1202ValidField(t *testing.T) {
 		"zero": {}, "no name": numeric(""), "long name": numeric(strings.Repeat("x", 61)), "kind 0": f(func(f *api.Field) { f.Kind, f.Values = 0, nil }), "kind 3": f(func(f *api.Field) { f.Kind, f.Values = 3, nil }), "invalid 0": f(func(f *api.Field) { f.Invalid = 0 }), "invalid 4": f(func(f *api.Field) { f.Invalid = 4 }),
 		"too many": categorical(many...), "twice": categorical("a", "b", "a"), "long value": categorical(strings.Repeat("x", 61)), "values of numbers": f(func(f *api.Field) { f.Kind = api.Continuous }),
 		"spoilt replace": f(func(f *api.Field) { f.Replace = api.Value{Num: "x"} }), "undeclared replace": f(func(f *api.Field) { f.Replace = Cat("z") }), "replace of another kind": f(func(f *api.Field) { f.Replace = number("1") }), "category in number": {Name: "x", Kind: api.Continuous, Invalid: 1, Replace: Cat("a")}, "spoilt number": {Name: "x", Kind: api.Continuous, Invalid: 1, Replace: number("2/4")},
+		"number with a category": {Name: "x", Kind: api.Continuous, Invalid: 1, Replace: both(api.Number)}, "category with a number": f(func(f *api.Field) { f.Replace = both(api.Category) }), "any category with a number": f(func(f *api.Field) { f.Values, f.Replace = nil, both(api.Category) }), "long replace": f(func(f *api.Field) { f.Values, f.Replace = nil, Cat(strings.Repeat("x", 61)) }),
 	} {
 		if ValidField(field) {
 			t.Error(name, "is valid")
@@ -102,8 +106,11 @@ func TestP1202Fit(t *testing.T) {
 		v    api.Value
 		want bool
 	}{
-		{numeric("x"), number("1/2"), true}, {numeric("x"), Cat("a"), false}, {numeric("x"), api.Value{}, false}, {numeric("x"), number("2/4"), false},
-		{categorical("a", "b"), Cat("a"), true}, {categorical("a", "b"), Cat("c"), false}, {categorical("a", "b"), Cat("A"), false}, {categorical("a"), api.Value{}, false}, {categorical("1"), number("1"), false}, {categorical(), Cat("z"), true}, {categorical(), number("1"), false}, {categorical(), Cat(strings.Repeat("x", 61)), false}, {api.Field{Kind: 3}, number("1"), false},
+		{numeric("x"), number("1/2"), true}, {numeric("x"), Cat("a"), false}, {numeric("x"), api.Value{}, false},
+		{categorical("a", "b"), Cat("a"), true}, {categorical("a", "b"), Cat("c"), false}, {categorical("a", "b"), Cat("A"), false}, {categorical("a"), api.Value{}, false}, {categorical("1"), number("1"), false}, {categorical(), Cat("z"), true}, {categorical(), number("1"), false}, {api.Field{Kind: 3}, number("1"), false}, {api.Field{}, api.Value{}, false},
+		// Values that are not valid fit by their kinds, too.
+		{numeric("y"), both(api.Number), true}, {numeric("y"), number("2/4"), true}, {numeric("y"), number(""), true}, {numeric("y"), both(api.Category), false}, {numeric("y"), both(api.Missing), false}, {numeric("y"), both(3), false},
+		{categorical(), both(api.Category), true}, {categorical("a"), both(api.Category), true}, {categorical("b"), both(api.Category), false}, {categorical(), Cat(strings.Repeat("x", 61)), true}, {categorical("a"), both(api.Number), false}, {categorical("a"), both(api.Missing), false}, {categorical(), both(3), false}, {api.Field{Kind: 3}, both(api.Number), false},
 	} {
 		if Fit(c.f, c.v) != c.want {
 			t.Errorf("number %d, %v: %v", i, c.v, !c.want)
@@ -137,7 +144,7 @@ func TestP1203(t *testing.T) {
 		{[]api.Field{with(c, api.AsMissing, none)}, l(Cat("z")), l(none), true, 0}, {[]api.Field{with(c, api.AsMissing, Cat("a"))}, l(Cat("z")), l(Cat("a")), true, 0}, {[]api.Field{with(c, api.AsMissing, Cat("a"))}, l(number("1")), l(Cat("a")), true, 0}, {[]api.Field{with(x, api.AsMissing, number("1"))}, l(Cat("z")), l(number("1")), true, 0},
 		{[]api.Field{x, c, x}, l(number("1"), Cat("z"), number("2")), nil, false, 0},
 		{[]api.Field{x}, nil, nil, false, api.ErrArity}, {nil, l(none), nil, false, api.ErrArity}, {[]api.Field{{}}, l(none, none), nil, false, api.ErrArity},
-		{[]api.Field{{}}, l(none), nil, false, api.ErrArg}, {[]api.Field{x}, l(api.Value{Kind: 7}), nil, false, api.ErrArg}, {[]api.Field{x}, l(number("2/4")), nil, false, api.ErrArg}, {[]api.Field{c, x}, l(Cat("z"), number("x")), nil, false, api.ErrArg}, {[]api.Field{c, {Name: "y"}}, l(Cat("z"), none), nil, false, api.ErrArg},
+		{[]api.Field{{}}, l(none), nil, false, api.ErrArg}, {[]api.Field{x}, l(api.Value{Kind: 7}), nil, false, api.ErrArg}, {[]api.Field{x}, l(number("2/4")), nil, false, api.ErrArg}, {[]api.Field{x}, l(both(api.Number)), nil, false, api.ErrArg}, {[]api.Field{c}, l(both(api.Category)), nil, false, api.ErrArg}, {[]api.Field{categorical()}, l(Cat(strings.Repeat("x", 61))), nil, false, api.ErrArg}, {[]api.Field{with(x, api.AsMissing, none)}, l(both(api.Number)), nil, false, api.ErrArg}, {[]api.Field{with(c, api.AsIs, none)}, l(both(api.Category)), nil, false, api.ErrArg}, {[]api.Field{with(x, 1, both(api.Number))}, l(none), nil, false, api.ErrArg}, {[]api.Field{c, x}, l(Cat("z"), number("x")), nil, false, api.ErrArg}, {[]api.Field{c, {Name: "y"}}, l(Cat("z"), none), nil, false, api.ErrArg},
 	} {
 		before := slices.Clone(k.row)
 		got, is, code := Prepare(k.f, k.row)
