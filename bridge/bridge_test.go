@@ -139,6 +139,7 @@ func TestP2702(t *testing.T) {
 	}{
 		{small, []string{"4.99"}, "1 0@0"}, {small, []string{"5"}, "2 0@0"}, {small, []string{"?"}, "2 0@0"}, {small, []string{":red"}, "- 0@0"}, {small, []string{"1/3"}, "1 0@0"},
 		{small, nil, " 16@0"}, {small, []string{"1", "2"}, " 16@0"}, {small, []string{"x"}, " 3@0"}, {small, []string{"1", "x", "y"}, " 3@1"}, {small, []string{"1", "?", "1e999"}, " 2@2"},
+		{small, []string{strings.Repeat("7", 401)}, "2 0@0"}, {small, []string{"-" + strings.Repeat("7", 1200)}, "1 0@0"}, {small, []string{"+" + strings.Repeat("7", 401)}, " 2@0"},
 		{bytesOf(t, leaf()), nil, "3 0@0"},
 	} {
 		text, wrong := Score(c.b, c.row...)

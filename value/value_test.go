@@ -61,10 +61,41 @@ func TestP1201Parse(t *testing.T) {
 			t.Errorf("Parse(%.20q): %v, %d", s, got, code)
 		}
 	}
-	for s, want := range map[string]api.Code{"": api.ErrForm, "??": api.ErrForm, " ?": api.ErrForm, "red": api.ErrForm, "!": api.ErrForm, ":" + strings.Repeat("x", 61): api.ErrForm, "2/4": api.ErrForm, "3/1": api.ErrForm, "1/0": api.ErrForm, "0/2": api.ErrForm, "1.5/2": api.ErrForm, "+3/2": api.ErrForm, "NaN": api.ErrForm, "1 ": api.ErrForm, strings.Repeat("9", 1201) + "/2": api.ErrForm, "1e401": api.ErrLimit, long + "9": api.ErrLimit, "." + long + "1": api.ErrLimit} {
+	for s, want := range map[string]api.Code{"": api.ErrForm, "??": api.ErrForm, " ?": api.ErrForm, "red": api.ErrForm, "!": api.ErrForm, ":" + strings.Repeat("x", 61): api.ErrForm, "2/4": api.ErrForm, "3/1": api.ErrForm, "1/0": api.ErrForm, "0/2": api.ErrForm, "1.5/2": api.ErrForm, "+3/2": api.ErrForm, "NaN": api.ErrForm, "1 ": api.ErrForm, strings.Repeat("9", 1201) + "/2": api.ErrForm, "1e401": api.ErrLimit, "." + long + "1": api.ErrLimit} {
 		got, code := Parse(s)
 		if got != (api.Value{}) || code != want {
 			t.Errorf("Parse(%.20q): %v, %d, not %d", s, got, code, want)
+		}
+	}
+}
+
+// What Text tells of a value is read as that value, however many digits it has.
+func TestP1201ParseOfText(t *testing.T) {
+	values := []api.Value{{}, Cat(""), Cat("?"), Cat(strings.Repeat("7", 60)), number("0"), number("-1/2")}
+	for _, n := range []int{1, 399, 400, 401, 402, 800, 1199, 1200} {
+		long, round := strings.Repeat("7", n), "1"+strings.Repeat("0", n-1)
+		for _, num := range []string{long, round, long + "/2", "1/" + long, long + "/1" + strings.Repeat("0", 1199), round + "/" + strings.Repeat("7", 1200)} {
+			values = append(values, number(num), number("-"+num))
+		}
+	}
+	for _, v := range values {
+		if got, code := Parse(Text(v)); !Valid(v) || got != v || code != api.OK {
+			t.Errorf("Parse(%.20q), %d bytes: %.20v, %d", Text(v), len(Text(v)), got, code)
+		}
+	}
+}
+
+// Other literals have no more digits than dec.Parse takes, and no number has more than MaxDigits.
+func TestP1201ParseLimit(t *testing.T) {
+	long, most := strings.Repeat("7", 401), strings.Repeat("7", api.MaxDigits)
+	for _, s := range []string{"+" + long, "0" + long, "-0" + long, long + ".", long + ".0", long + ".5", "." + long, long + "e0", long + "E-1", "-" + long + "e0", "+" + most, "0" + most, most + "7", "-" + most + "7", strings.Repeat("0", 401), "-" + strings.Repeat("0", 401), "1" + strings.Repeat("0", 1200), strings.Repeat("7", 50000)} {
+		if got, code := Parse(s); got != (api.Value{}) || code != api.ErrLimit {
+			t.Errorf("Parse(%.20q), %d bytes: %.20v, %d", s, len(s), got, code)
+		}
+	}
+	for _, s := range []string{long + "x", long + " ", " " + long, "--" + long, "+-" + long, long + "/", "/" + long, "+" + long + "/2", "0" + long + "/2", long + "/7", long + "/1", long + "/0", most + "7/2", "1/" + most + "7", "?" + long} {
+		if got, code := Parse(s); got != (api.Value{}) || code != api.ErrForm {
+			t.Errorf("Parse(%.20q), %d bytes: %.20v, %d", s, len(s), got, code)
 		}
 	}
 }
